@@ -6,19 +6,22 @@ import (
 	"testing"
 
 	"hypercube/api"
+	"hypercube/sample"
 )
 
 const (
-	full  = 1<<24 - 1 // all dimensions
+	full  = sample.Full
 	above = 0xff << 24
-	last  = 1 << 23
+	last  = sample.Last
 )
 
 var top = api.Clause{}
 
-func pos(s uint32) api.Clause     { return api.Clause{Pos: s} }
-func neg(s uint32) api.Clause     { return api.Clause{Neg: s} }
-func both(p, n uint32) api.Clause { return api.Clause{Pos: p, Neg: n} }
+// Short names for what the tests write most.
+var (
+	pos, neg, both = sample.Pos, sample.Neg, sample.Both
+	pairs, spread  = sample.Pairs, sample.Spread
+)
 
 // literals tells a clause as a set of numbers: i+1 for the dimension i, -i-1 for its opposite.
 func literals(c api.Clause) map[int]bool {
@@ -42,16 +45,6 @@ func within(a, b map[int]bool) bool {
 		}
 	}
 	return true
-}
-
-// spread tells n numbers that follow from a seed.
-func spread(seed uint32, n int) []uint32 {
-	out := make([]uint32, n)
-	for k := range out {
-		seed = seed*1664525 + 1013904223
-		out[k] = seed >> 8
-	}
-	return out
 }
 
 // small tells all clauses on the dimensions 0 and 1, and on 22 and 23.
@@ -208,17 +201,6 @@ func TestTwoOfThem(t *testing.T) {
 }
 
 // P2.2.
-
-// pairs tells n clauses of two dimensions each, of which none is below another, in the order.
-func pairs(n int) []api.Clause {
-	var out []api.Clause
-	for i := 0; len(out) < n; i++ {
-		for k := range i {
-			out = append(out, pos(1<<i|1<<k))
-		}
-	}
-	return out[:n]
-}
 
 func backwards(l []api.Clause) []api.Clause {
 	out := slices.Clone(l)

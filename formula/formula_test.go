@@ -7,11 +7,12 @@ import (
 
 	"hypercube/api"
 	"hypercube/clause"
+	"hypercube/sample"
 )
 
 const (
-	full = 1<<24 - 1 // all dimensions
-	last = 1 << 23
+	full = sample.Full
+	last = sample.Last
 )
 
 // row is what a formula is written as.
@@ -19,20 +20,11 @@ type row = []api.Clause
 
 var top = api.Clause{}
 
-func pos(s uint32) api.Clause     { return api.Clause{Pos: s} }
-func neg(s uint32) api.Clause     { return api.Clause{Neg: s} }
-func both(p, n uint32) api.Clause { return api.Clause{Pos: p, Neg: n} }
-
-// pairs tells a formula of n clauses of two dimensions each (at most 276).
-func pairs(n int) row {
-	var out row
-	for i := 0; len(out) < n; i++ {
-		for k := range i {
-			out = append(out, pos(1<<i|1<<k))
-		}
-	}
-	return out[:n]
-}
+// Short names for what the tests write most.
+var (
+	pos, neg, both = sample.Pos, sample.Neg, sample.Both
+	pairs, spread  = sample.Pairs, sample.Spread
+)
 
 // met tells each clause met with one more.
 func met(f row, c api.Clause) row {
@@ -64,17 +56,6 @@ func rights() []row {
 	}
 }
 
-// wrongs tells rows that are no formulas.
-func wrongs() []row {
-	return []row{
-		{pos(1 << 24)}, {neg(1 << 24)}, {both(1, 1<<31)}, {both(math.MaxUint32, math.MaxUint32)}, {pos(1), pos(2 | 1<<24)}, {neg(1), both(2, 1<<24)},
-		{top, top}, {pos(1), pos(1)}, {neg(1), pos(1), pos(1)}, {both(1, 1), both(1, 1)},
-		{pos(1), neg(1)}, {neg(2), neg(1)}, {both(1, 8), both(1, 4)}, {pos(2), pos(1)}, {both(2, 4), pos(1)},
-		{top, pos(1)}, {pos(1), top}, {pos(1), pos(3)}, {neg(1), both(1, 1)}, {pos(1), both(1, 1)}, {neg(1), pos(2), both(4, 1)}, {pos(1), pos(2), pos(last | 1)},
-		pairs(65), pairs(276), append(pairs(64), pos(3)), append(pairs(64), pos(last|3)), slices.Repeat(row{top}, 1000),
-	}
-}
-
 // told holds an answer against what is wanted.
 func told(t *testing.T, name string, got row, e api.Errno, want row) {
 	t.Helper()
@@ -99,7 +80,7 @@ func TestRight(t *testing.T) {
 			t.Errorf("Right(%#x) = false", f)
 		}
 	}
-	for _, f := range wrongs() {
+	for _, f := range sample.WrongFormulas() {
 		if Right(f) {
 			t.Errorf("Right(%#x) = true", f)
 		}
@@ -149,7 +130,7 @@ func TestDim(t *testing.T) {
 // What counts for all: a formula that may not be.
 
 func TestWrongFormulas(t *testing.T) {
-	for _, w := range wrongs() {
+	for _, w := range sample.WrongFormulas() {
 		for _, f := range rights() {
 			got, e := Join(w, f)
 			refused(t, "Join(wrong, f)", got, e, api.ErrArg)

@@ -6,6 +6,7 @@ import (
 	"testing"
 
 	"hypercube/api"
+	"hypercube/sample"
 )
 
 // A formula on two dimensions i and j is a function of four bits that never falls: of i, j, -i and -j, as if these
@@ -126,19 +127,12 @@ func TestAllOnTwoDimensions(t *testing.T) {
 
 // What follows are the calls by the words of the document, step by step, for formulas that are too great for tables.
 
-// wordLeast holds each clause against all.
+// wordLeast is refused where there are too many.
 func wordLeast(l row) (row, api.Errno) {
-	below := func(a, b api.Clause) bool { return a.Pos&b.Pos == b.Pos && a.Neg&b.Neg == b.Neg }
-	var out row
-	for _, c := range l {
-		if !slices.ContainsFunc(l, func(d api.Clause) bool { return c != d && below(c, d) }) && !slices.Contains(out, c) {
-			out = append(out, c)
-		}
-	}
+	out := sample.Least(l)
 	if len(out) > 64 {
 		return nil, api.ErrBig
 	}
-	slices.SortFunc(out, func(a, b api.Clause) int { return cmp.Or(cmp.Compare(a.Pos, b.Pos), cmp.Compare(a.Neg, b.Neg)) })
 	return out, api.OK
 }
 
@@ -199,16 +193,6 @@ func wordPut(f row, i int, r row) (row, api.Errno) {
 		}
 	}
 	return there, api.OK
-}
-
-// spread tells n numbers that follow from a seed.
-func spread(seed uint32, n int) []uint32 {
-	out := make([]uint32, n)
-	for k := range out {
-		seed = seed*1664525 + 1013904223
-		out[k] = seed >> 8
-	}
-	return out
 }
 
 // many tells formulas of all sizes on the dimensions up to one, with few literals to a clause or with many.

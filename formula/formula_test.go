@@ -23,29 +23,12 @@ var top = api.Clause{}
 // Short names for what the tests write most.
 var (
 	pos, neg, both = sample.Pos, sample.Neg, sample.Both
-	pairs, spread  = sample.Pairs, sample.Spread
+	pairs          = sample.Pairs
+	singles, bits  = sample.Singles, sample.Bits
+	met            = sample.Met
+	told, refused  = sample.Told, sample.Refused
+	many           = sample.Great
 )
-
-// met tells each clause met with one more.
-func met(f row, c api.Clause) row {
-	out := make(row, len(f))
-	for k := range f {
-		out[k] = both(f[k].Pos|c.Pos, f[k].Neg|c.Neg)
-	}
-	return out
-}
-
-// singles tells the join of the dimensions from one on, ahead of another.
-func singles(from, to int) row {
-	var out row
-	for i := from; i < to; i++ {
-		out = append(out, pos(1<<i))
-	}
-	return out
-}
-
-// bits tells the set of the dimensions from one on, ahead of another.
-func bits(from, to int) uint32 { return 1<<to - 1<<from }
 
 // rights tells formulas that may be.
 func rights() []row {
@@ -53,22 +36,6 @@ func rights() []row {
 		nil, {}, {top}, {pos(1)}, {neg(1)}, {both(1, 1)}, {pos(3)}, {both(full, full)}, {pos(last)}, {neg(last)}, {both(last, 1)},
 		{neg(1), pos(1)}, {neg(1), neg(2)}, {neg(4), both(1, 1), pos(2)}, {pos(1), both(2, 4)}, {both(1, 4), both(1, 8), both(2, 1)}, {neg(last), pos(last)},
 		singles(0, 24), pairs(3), pairs(63), pairs(64), met(pairs(64), both(0, last)),
-	}
-}
-
-// told holds an answer against what is wanted.
-func told(t *testing.T, name string, got row, e api.Errno, want row) {
-	t.Helper()
-	if e != api.OK || !slices.Equal(got, want) {
-		t.Errorf("%s = %#x, %d, not %#x", name, got, e, want)
-	}
-}
-
-// refused holds an answer against a refusal.
-func refused(t *testing.T, name string, got row, e, want api.Errno) {
-	t.Helper()
-	if e != want || len(got) != 0 {
-		t.Errorf("%s = %d clauses, %d, not refused with %d", name, len(got), e, want)
 	}
 }
 
@@ -121,7 +88,7 @@ func TestDim(t *testing.T) {
 		got, e := Dim(i)
 		told(t, "Dim", got, e, row{pos(1 << i)})
 	}
-	for _, i := range []int{-1, 24, 25, 31, 32, 64, math.MaxInt, math.MinInt} {
+	for _, i := range sample.NoDimensions() {
 		got, e := Dim(i)
 		refused(t, "Dim", got, e, api.ErrArg)
 	}
@@ -340,7 +307,7 @@ func TestPut(t *testing.T) {
 }
 
 func TestPutOfNoDimension(t *testing.T) {
-	for _, i := range []int{-1, 24, 25, 32, 64, math.MaxInt, math.MinInt} {
+	for _, i := range sample.NoDimensions() {
 		for _, f := range rights() {
 			got, e := Put(f, i, row{pos(1)})
 			refused(t, "Put of no dimension", got, e, api.ErrArg)
@@ -460,28 +427,10 @@ func TestArgumentsStay(t *testing.T) {
 	for _, f := range rights() {
 		for _, g := range rights() {
 			for name, call := range calls() {
-				roomF, roomG := withRoom(f), withRoom(g)
-				wantF, wantG := slices.Clone(roomF), slices.Clone(roomG)
-				got, e := call(roomF[:len(f)], roomG[:len(g)])
-				got = got[:cap(got)]
-				for k := range got {
-					got[k] = both(77, 78)
-				}
-				if !slices.Equal(roomF, wantF) || !slices.Equal(roomG, wantG) {
-					t.Errorf("%s(%#x, %#x) changed what it was given, or handed it out", name, f, g)
-				}
-				again, e2 := call(f, g)
-				if e2 != e || slices.Contains(again, both(77, 78)) {
-					t.Errorf("%s(%#x, %#x) kept what it handed out", name, f, g)
-				}
+				sample.Apart(t, name, call, f, g)
 			}
 		}
 	}
-}
-
-// withRoom tells a formula with others behind it, so that spare room is seen.
-func withRoom(f row) row {
-	return append(slices.Clone(f), pos(99), neg(98), both(97, 96), pos(95))
 }
 
 // calls tells each call that answers a formula, of two formulas.

@@ -195,31 +195,6 @@ func wordPut(f row, i int, r row) (row, api.Errno) {
 	return there, api.OK
 }
 
-// many tells formulas of all sizes on the dimensions up to one, with few literals to a clause or with many.
-func many(seeds, dims uint32) []row {
-	var out []row
-	for seed := range seeds {
-		n := int(seed % 9)
-		if seed%13 == 0 {
-			n = 100
-		}
-		s := spread(seed*dims, 4*n)
-		var l row
-		for k := range n {
-			four := s[4*k:]
-			c := both(four[0]&four[1], four[2]&four[3])
-			if seed%2 == 0 {
-				c = both(four[0]&four[1]&four[2], four[3]&four[2]&(four[0]>>1))
-			}
-			l = append(l, both(c.Pos&(1<<dims-1), c.Neg&(1<<dims-1)))
-		}
-		if f, e := wordLeast(l); e == api.OK {
-			out = append(out, f)
-		}
-	}
-	return out
-}
-
 // same holds an answer against the one by the words.
 func same(t *testing.T, name string, got row, e api.Errno, want row, wantErr api.Errno) {
 	t.Helper()

@@ -54,39 +54,6 @@ func byBits(f row, at []int) int {
 	return pair{holds(f, first, notSecond), holds(f, second, notFirst)}.number()
 }
 
-// onTwo tells all formulas on two dimensions: those that rows of the 16 clauses make, each once.
-func onTwo(i, j int) []row {
-	set := func(two int) uint32 { return uint32(two&1)<<i | uint32(two>>1)<<j }
-	var out []row
-	for chosen := range 1 << 16 {
-		var l row
-		for c := range 16 {
-			if chosen>>c&1 == 1 {
-				l = append(l, both(set(c&3), set(c>>2)))
-			}
-		}
-		if f := sample.Least(l); len(f) == len(l) {
-			out = append(out, f)
-		}
-	}
-	return out
-}
-
-// many tells formulas on some dimensions.
-func many(seeds, dims uint32) []row {
-	var out []row
-	for seed := range seeds {
-		n := int(seed % 7)
-		s := spread(seed*2654435761+dims, 4*n)
-		var l row
-		for k := range n {
-			l = append(l, both(s[4*k]&s[4*k+1]&dims, s[4*k+2]&s[4*k+3]&dims))
-		}
-		out = append(out, sample.Least(l))
-	}
-	return out
-}
-
 // rows tells all rows of n values, by the numbers from the last one on.
 func rows(n int) [][]int {
 	if n == 0 {
@@ -103,7 +70,7 @@ func rows(n int) [][]int {
 
 func TestEvalByBits(t *testing.T) {
 	for _, dims := range []uint32{3, 31, 1<<23 | 6, full} {
-		for k, f := range many(200, dims) {
+		for k, f := range sample.Formulas(200, dims) {
 			s := spread(uint32(k), 24)
 			at := make([]int, k%26)
 			for i := range at {
@@ -129,7 +96,7 @@ func TestTellByBits(t *testing.T) {
 	for _, n := range []int{1, 2, 3, 4, 5} {
 		all := rows(n)
 		alike := 0
-		some := many(24, 1<<n-1)
+		some := sample.Formulas(24, 1<<n-1)
 		for _, f := range some {
 			for _, g := range some {
 				length := 1
@@ -155,7 +122,7 @@ func TestTellByBits(t *testing.T) {
 
 func TestSameValuesAreSameFormulas(t *testing.T) {
 	for _, d := range [][2]int{{0, 1}, {4, 23}} {
-		all := onTwo(d[0], d[1])
+		all := sample.OnTwo(d[0], d[1])
 		if len(all) != 168 {
 			t.Fatalf("%d formulas on two dimensions", len(all))
 		}
@@ -167,7 +134,7 @@ func TestSameValuesAreSameFormulas(t *testing.T) {
 			}
 		}
 	}
-	some := slices.Concat(many(60, 31), many(20, 1<<23|1<<12|7))
+	some := slices.Concat(sample.Formulas(60, 31), sample.Formulas(20, 1<<23|1<<12|7))
 	for _, f := range some {
 		for _, g := range some {
 			got, e := Same(f, g)
@@ -179,7 +146,7 @@ func TestSameValuesAreSameFormulas(t *testing.T) {
 }
 
 func TestTellsRowTellsThemApart(t *testing.T) {
-	some := slices.Concat(many(60, 31), onTwo(0, 3))
+	some := slices.Concat(sample.Formulas(60, 31), sample.OnTwo(0, 3))
 	for _, f := range some {
 		for _, g := range some[:70] {
 			at, e := Tell(f, g)
@@ -241,7 +208,7 @@ func TestValuesOfWhatIsMade(t *testing.T) {
 			agree(t, "Dim", f, api.OK, at, v)
 		}
 	}
-	two, three := onTwo(0, 1), many(30, 7)
+	two, three := sample.OnTwo(0, 1), sample.Formulas(30, 7)
 	for k, f := range two {
 		for n := k % 4; n < len(two); n += 4 {
 			valuesAgree(t, f, two[n], n/4%2, rows(2))

@@ -90,13 +90,13 @@ func TestMadeFaults(t *testing.T) {
 func TestTermsMayBe(t *testing.T) {
 	for seed := range uint32(20000) {
 		m, x, _ := made(seed, 0)
-		if got, _, e := Resolve(x, m.globals, m.vars, m.dims); e == api.OK && !mayBe(got, len(m.vars), len(m.dims)) {
+		if got, _, e := Resolve(x, m.globals, m.vars, m.dims); e == api.OK && !sample.MayBe(got, len(m.vars), len(m.dims)) {
 			t.Fatalf("seed %d: %s may not be in %d and %d", seed, shown(got), len(m.vars), len(m.dims))
 		}
 	}
 	// And what tells so is no rule that lets all be.
 	for _, x := range []api.Term{{}, {Kind: api.Var, N: 1}, {Kind: api.Const}, {Kind: api.Lam}, {Kind: api.Loop, R: []api.Clause{{Pos: 2}}}, {Kind: api.Transp, R: []api.Clause{{Pos: 1, Neg: 1}}, Kids: []api.Term{{Kind: api.Univ}, {Kind: api.Univ}}}} {
-		if mayBe(x, 1, 1) {
+		if sample.MayBe(x, 1, 1) {
 			t.Errorf("%s may be", shown(x))
 		}
 	}
@@ -351,43 +351,6 @@ func whole(t api.Tree) api.Tree {
 	return t
 }
 
-// spoil writes over all lists of a term, their spare room too, and tells how often one was written over twice.
-func spoil(l []api.Term) int {
-	twice := 0
-	for k := range l {
-		twice += spoilRow(l[k].R) + spoil(l[k].Kids)
-		for n := range l[k].Sys {
-			twice += spoilRow(l[k].Sys[n].Face) + spoil(l[k].Sys[n].Kids)
-		}
-		for n, b := range l[k].Sys[:cap(l[k].Sys)] {
-			if len(b.Face) == 7 {
-				twice++
-			}
-			l[k].Sys[:cap(l[k].Sys)][n] = api.Branch{Face: make([]api.Clause, 7)}
-		}
-	}
-	l = l[:cap(l)]
-	for k := range l {
-		if l[k].Name == "spoilt" {
-			twice++
-		}
-		l[k] = api.Term{Name: "spoilt"}
-	}
-	return twice
-}
-
-func spoilRow(row []api.Clause) int {
-	twice := 0
-	row = row[:cap(row)]
-	for k := range row {
-		if row[k].Pos == 1<<30 {
-			twice++
-		}
-		row[k] = api.Clause{Pos: 1 << 30}
-	}
-	return twice
-}
-
 func TestMemory(t *testing.T) {
 	for seed := range uint32(6000) {
 		m, x, _ := made(seed, []int{0, 0, 60}[seed%3])
@@ -397,7 +360,7 @@ func TestMemory(t *testing.T) {
 		names := slices.Concat(globals[:cap(globals)], vars[:cap(vars)], dims[:cap(dims)])
 		got, at, e := Resolve(x, globals, vars, dims)
 		want := shown(got)
-		if twice := spoil([]api.Term{got}); twice > 0 {
+		if twice := sample.Spoil([]api.Term{got}); twice > 0 {
 			t.Fatalf("seed %d: lists of one answer share memory", seed)
 		}
 		if !reflect.DeepEqual(before, whole(x)) || !slices.Equal(names, slices.Concat(globals[:cap(globals)], vars[:cap(vars)], dims[:cap(dims)])) {
@@ -417,7 +380,7 @@ func TestAnyTrees(t *testing.T) {
 		x := anyTree(&numbers, 4)
 		g := given{globals: "c", vars: "x", dims: "i"}
 		got, at, e := g.resolve(x)
-		if show.Right(x) != api.OK && (shown(got) != "Kind 0" || at != 0 || e != api.ErrForm) || e == api.OK && (at != 0 || !mayBe(got, 1, 1)) || e != api.OK && shown(got) != "Kind 0" {
+		if show.Right(x) != api.OK && (shown(got) != "Kind 0" || at != 0 || e != api.ErrForm) || e == api.OK && (at != 0 || !sample.MayBe(got, 1, 1)) || e != api.OK && shown(got) != "Kind 0" {
 			t.Fatalf("seed %d: %v = %s, %d, %d", seed, x, shown(got), at, e)
 		}
 	}

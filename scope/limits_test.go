@@ -6,6 +6,7 @@ import (
 	"testing"
 
 	"hypercube/api"
+	"hypercube/sample"
 	"hypercube/tree"
 )
 
@@ -116,7 +117,7 @@ func TestManyElems(t *testing.T) {
 	box := node(tree.Box, slices.Repeat([]api.Tree{elem}, 50000)...)
 	box.Kids = append(box.Kids, node(tree.Elem, face, nm("S1")))
 	got, at, e := Resolve(node(tree.App, node(tree.App, nm("glue"), nm("U")), box), nil, nil, []string{"j", "i"})
-	if at != 0 || e != api.OK || len(got.Sys) != 50001 || !mayBe(got, 0, 2) || shown(got.Sys[50000].Kids[0]) != "Circle" || shownRow(got.Sys[50000].Face) != "1" {
+	if at != 0 || e != api.OK || len(got.Sys) != 50001 || !sample.MayBe(got, 0, 2) || shown(got.Sys[50000].Kids[0]) != "Circle" || shownRow(got.Sys[50000].Face) != "1" {
 		t.Errorf("many Elems: %d, %d, %d", len(got.Sys), at, e)
 	}
 	var faces []api.Tree

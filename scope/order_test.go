@@ -7,6 +7,7 @@ import (
 	"testing"
 
 	"hypercube/api"
+	"hypercube/sample"
 	"hypercube/tree"
 )
 
@@ -204,7 +205,7 @@ func TestGreatFormulas(t *testing.T) {
 				continue
 			}
 			got, at, e := g.resolve(all)
-			if e != api.OK || at != 0 || len(got.R) != x.clause || !strings.HasPrefix(shown(got), what) || !mayBe(got, 1, 24) {
+			if e != api.OK || at != 0 || len(got.R) != x.clause || !strings.HasPrefix(shown(got), what) || !sample.MayBe(got, 1, 24) {
 				t.Errorf("%s: %s at %d clauses, %d, %d", x.why, what, len(got.R), at, e)
 			}
 		}
@@ -229,7 +230,7 @@ func TestGreatFaces(t *testing.T) {
 		{first(64), 64}, {first(64, faces[:64]...), 64}, {first(64, faces[3]+"(d20=1)"), 64}, {first(64, "1"), 1}, {append([]string{"1"}, faces[:200]...), 1},
 	} {
 		got, at, e := g.resolve(read(t, box(x.elems...)))
-		if e != api.OK || at != 0 || len(got.R) != x.clauses || !mayBe(got, 1, 23) {
+		if e != api.OK || at != 0 || len(got.R) != x.clauses || !sample.MayBe(got, 1, 23) {
 			t.Errorf("%d faces: %d clauses, %d, %d", len(x.elems), len(got.R), at, e)
 		}
 	}
@@ -246,7 +247,7 @@ func TestGreatFaces(t *testing.T) {
 		branches = append(branches, face+" -> x")
 	}
 	got, at, e := g.resolve(read(t, "glue x ["+strings.Join(branches, ", ")+"]"))
-	if e != api.OK || at != 0 || len(got.Sys) != 200 || !mayBe(got, 1, 23) {
+	if e != api.OK || at != 0 || len(got.Sys) != 200 || !sample.MayBe(got, 1, 23) {
 		t.Errorf("200 branches: %d, %d, %d", len(got.Sys), at, e)
 	}
 }

@@ -7,6 +7,7 @@ import (
 	"testing"
 
 	"hypercube/api"
+	"hypercube/sample"
 	"hypercube/tree"
 )
 
@@ -105,7 +106,7 @@ func toldTree(t *testing.T, g given, why string, x api.Tree, want string) {
 	if s := shown(got); s != want || at != 0 || e != api.OK {
 		t.Errorf("%q in %v = %s, %d, %d, not %s", short(why), g, short(s), at, e, short(want))
 	}
-	if !mayBe(got, len(strings.Fields(g.vars)), len(strings.Fields(g.dims))) {
+	if !sample.MayBe(got, len(strings.Fields(g.vars)), len(strings.Fields(g.dims))) {
 		t.Errorf("%q in %v = %s may not be", short(why), g, short(shown(got)))
 	}
 }

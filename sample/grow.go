@@ -1,0 +1,97 @@
+package sample
+
+import (
+	"slices"
+
+	"hypercube/api"
+)
+
+// Grower makes terms that may be; which, follows from its seed.
+type Grower struct {
+	forms map[int]Form
+	seed  uint32
+}
+
+// Grow tells one that makes others with each seed.
+func Grow(seed uint32) *Grower { return &Grower{Forms(), seed*2654435761 + 97} }
+
+// Below tells a number below n.
+func (g *Grower) Below(n int) int {
+	g.seed = g.seed*1664525 + 1013904223
+	return int(g.seed>>8) % n
+}
+
+// Term tells one that may be in so many variables and dimensions, of about so many nodes.
+func (g *Grower) Term(vars, dims, nodes int) api.Term {
+	t := api.Term{Kind: g.kind(vars, dims, nodes)}
+	switch t.Kind {
+	case api.Var:
+		t.N = g.Below(vars)
+	case api.Const:
+		t.Name = []string{"a", "Z", "_", "x0", "fst", "a_B9"}[g.Below(6)]
+	}
+	f := g.forms[t.Kind]
+	if f.Formula || f.Face {
+		t.R = g.Row(dims, f.Face)
+	}
+	branches := 0
+	if f.Branch != "" && g.binds(f.Branch, dims) {
+		branches = g.Below(4)
+	}
+	each := (nodes - 1) / max(1, len(f.Kids)+branches*len(f.Branch))
+	t.Kids = g.kids(f.Kids, vars, dims, each)
+	for range branches {
+		t.Sys = append(t.Sys, api.Branch{Face: g.Row(dims, true), Kids: g.kids(f.Branch, vars, dims, each)})
+	}
+	return t
+}
+
+// kind tells one that can stand there: without Kids, if no node is left for them.
+func (g *Grower) kind(vars, dims, nodes int) int {
+	for {
+		kind := api.Var + g.Below(api.The)
+		f := g.forms[kind]
+		leaf := f.Kids == ""
+		if leaf == (nodes <= 1) && (kind != api.Var || vars > 0) && g.binds(f.Kids, dims) {
+			return kind
+		}
+	}
+}
+
+// binds tells whether there is room for the dimensions that are bound.
+func (g *Grower) binds(kids string, dims int) bool {
+	return dims < api.MaxDims || !slices.Contains([]byte(kids), 'i')
+}
+
+func (g *Grower) kids(binds string, vars, dims, nodes int) []api.Term {
+	var out []api.Term
+	for k := range len(binds) {
+		v, d := Inside(binds[k], vars, dims)
+		out = append(out, g.Term(v, d, nodes))
+	}
+	return out
+}
+
+// Row tells a formula, or a face, of at most three clauses on so many dimensions.
+func (g *Grower) Row(dims int, face bool) []api.Clause {
+	var l []api.Clause
+	for range g.Below(4) {
+		c := Both(g.set(dims), g.set(dims))
+		if face {
+			c.Neg &^= c.Pos
+		}
+		l = append(l, c)
+	}
+	return Least(l)
+}
+
+// set tells few of so many dimensions.
+func (g *Grower) set(dims int) uint32 {
+	var s uint32
+	for range g.Below(3) {
+		if dims > 0 {
+			s |= 1 << g.Below(dims)
+		}
+	}
+	return s
+}

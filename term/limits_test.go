@@ -16,27 +16,6 @@ func wide(nodes int) api.Term {
 	return t
 }
 
-// bushy tells a term of so many nodes that may be, few deep: a system of branches, one node each.
-func bushy(nodes int) api.Term {
-	t := node(api.MkGlue, univ)
-	for range nodes - 2 {
-		t = api.Term{Kind: t.Kind, Kids: t.Kids, Sys: append(t.Sys, api.Branch{Kids: []api.Term{univ}})}
-	}
-	return t
-}
-
-// balanced tells a term of so many nodes that may be, of Pairs as far as may be.
-func balanced(nodes int) api.Term {
-	switch {
-	case nodes == 1:
-		return univ
-	case nodes == 2:
-		return fst(univ)
-	}
-	first := (nodes - 1) / 2
-	return node(api.Pair, balanced(first), balanced(nodes-1-first))
-}
-
 // P10.2: depths of 200 and 201.
 func TestDeep(t *testing.T) {
 	ways := map[string]func(api.Term) api.Term{

@@ -129,23 +129,6 @@ func TestSame(t *testing.T) {
 	}
 }
 
-// plain tells a term in which no list is nil.
-func plain(t api.Term) api.Term {
-	t.R = append(row{}, t.R...)
-	t.Kids = append([]api.Term{}, t.Kids...)
-	t.Sys = append([]api.Branch{}, t.Sys...)
-	for k, kid := range t.Kids {
-		t.Kids[k] = plain(kid)
-	}
-	for k, b := range t.Sys {
-		t.Sys[k] = api.Branch{Face: append(row{}, b.Face...), Kids: append([]api.Term{}, b.Kids...)}
-		for n, kid := range b.Kids {
-			t.Sys[k].Kids[n] = plain(kid)
-		}
-	}
-	return t
-}
-
 // A list without an element is the same as nil, in all places.
 func TestSameOfEmptyLists(t *testing.T) {
 	for _, x := range append(terms(1000), univ, api.Term{}, api.Term{Kind: -3, Sys: []api.Branch{{}}}, grown(univ, nil)) {

@@ -12,40 +12,16 @@ import (
 // row is what a formula is written as, and a face.
 type row = []api.Clause
 
-var pos, neg, both = sample.Pos, sample.Neg, sample.Both
+// Short names for what the tests write most.
+var (
+	pos, neg, both         = sample.Pos, sample.Neg, sample.Both
+	node, with, grown      = sample.Node, sample.With, sample.Grown
+	variable, loop, times  = sample.Var, sample.Loop, sample.Times
+	lam, plam, fst         = sample.Lam, sample.PLam, sample.Fst
+	bushy, balanced, plain = sample.Bushy, sample.Balanced, sample.Plain
+)
 
 var univ = api.Term{Kind: api.Univ}
-
-func variable(n int) api.Term { return api.Term{Kind: api.Var, N: n} }
-
-// loop is the loop at a dimension.
-func loop(i int) api.Term { return api.Term{Kind: api.Loop, R: row{pos(1 << i)}} }
-
-func node(kind int, kids ...api.Term) api.Term { return api.Term{Kind: kind, Kids: kids} }
-
-// with tells a term with a row.
-func with(t api.Term, r row) api.Term {
-	t.R = r
-	return t
-}
-
-// grown tells a term with one branch more.
-func grown(t api.Term, face row, kids ...api.Term) api.Term {
-	t.Sys = append(t.Sys[:len(t.Sys):len(t.Sys)], api.Branch{Face: face, Kids: kids})
-	return t
-}
-
-// times tells a term that is put into another, n times.
-func times(n int, t api.Term, in func(api.Term) api.Term) api.Term {
-	for range n {
-		t = in(t)
-	}
-	return t
-}
-
-func lam(t api.Term) api.Term  { return node(api.Lam, t) }
-func plam(t api.Term) api.Term { return node(api.PLam, t) }
-func fst(t api.Term) api.Term  { return node(api.Fst, t) }
 
 // some tells a term of a kind that may be in one variable and one dimension, with each field that the kind names; of those with a system, with so many branches.
 func some(kind, branches int) api.Term {

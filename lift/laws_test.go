@@ -10,35 +10,18 @@ import (
 	"hypercube/term"
 )
 
-// scoped is a term that may be in so many variables and dimensions.
-type scoped struct {
-	t          api.Term
-	vars, dims int
-}
-
-// grownTerms tells such, of all kinds, one for each seed.
-func grownTerms(seeds uint32) []scoped {
-	var out []scoped
-	for seed := range seeds {
-		g := sample.Grow(seed)
-		vars, dims := g.Below(6), g.Below(14)
-		out = append(out, scoped{g.Term(vars, dims, g.Below(50)), vars, dims})
-	}
-	return out
-}
-
 // P11.4.
 
 func TestLiftsByNothing(t *testing.T) {
-	for _, x := range grownTerms(3000) {
+	for _, x := range sample.GrownTerms(3000) {
 		for from := range 4 {
-			got, e := Vars(x.t, from, 0)
-			answer(t, "Vars", got, e, x.t, api.OK)
-			got, e = Dims(x.t, from, 0)
-			answer(t, "Dims", got, e, x.t, api.OK)
+			got, e := Vars(x.T, from, 0)
+			answer(t, "Vars", got, e, x.T, api.OK)
+			got, e = Dims(x.T, from, 0)
+			answer(t, "Dims", got, e, x.T, api.OK)
 		}
-		got, e := Both(x.t, 0, 0)
-		answer(t, "Both", got, e, x.t, api.OK)
+		got, e := Both(x.T, 0, 0)
+		answer(t, "Both", got, e, x.T, api.OK)
 	}
 }
 
@@ -56,20 +39,20 @@ func sum(t *testing.T, name string, call func(api.Term, int, int) (api.Term, api
 }
 
 func TestLiftsAddUp(t *testing.T) {
-	for _, x := range grownTerms(600) {
+	for _, x := range sample.GrownTerms(600) {
 		for from := range 3 {
 			for a := range 4 {
 				for _, b := range []int{0, 1, 2, 9} {
-					sum(t, "Vars", Vars, x.t, from, a, b)
-					sum(t, "Dims", Dims, x.t, from, a, b)
+					sum(t, "Vars", Vars, x.T, from, a, b)
+					sum(t, "Dims", Dims, x.T, from, a, b)
 				}
 			}
 		}
-		got, e := Both(x.t, 2, 1)
+		got, e := Both(x.T, 2, 1)
 		if e == api.OK {
 			got, e = Both(got, 3, 2)
 		}
-		want, wantE := Both(x.t, 5, 3)
+		want, wantE := Both(x.T, 5, 3)
 		answer(t, "Both", got, e, want, wantE)
 	}
 	sum(t, "Vars at the last", Vars, variable(billion-10), 0, 4, 6)
@@ -80,32 +63,32 @@ func TestLiftsAddUp(t *testing.T) {
 
 // What was lifted from a place on by 1 does not use that; and it uses what it used, each where it is now.
 func TestWhatIsUsed(t *testing.T) {
-	for _, x := range grownTerms(2000) {
+	for _, x := range sample.GrownTerms(2000) {
 		for from := range 7 {
-			got, _ := Vars(x.t, from, 1)
-			if term.Uses(got, from) || term.Dims(got) != term.Dims(x.t) {
-				t.Fatalf("Vars(%v, %d, 1) = %v", x.t, from, got)
+			got, _ := Vars(x.T, from, 1)
+			if term.Uses(got, from) || term.Dims(got) != term.Dims(x.T) {
+				t.Fatalf("Vars(%v, %d, 1) = %v", x.T, from, got)
 			}
 			for n := range 7 {
 				to := n
 				if n >= from {
 					to++
 				}
-				if term.Uses(got, to) != term.Uses(x.t, n) {
-					t.Fatalf("Vars(%v, %d, 1) = %v, of %d", x.t, from, got, n)
+				if term.Uses(got, to) != term.Uses(x.T, n) {
+					t.Fatalf("Vars(%v, %d, 1) = %v, of %d", x.T, from, got, n)
 				}
 			}
-			got, e := Dims(x.t, from, 1)
+			got, e := Dims(x.T, from, 1)
 			if e != api.OK {
 				continue
 			}
-			want, _ := mask.Lift(term.Dims(x.t), from, 1)
+			want, _ := mask.Lift(term.Dims(x.T), from, 1)
 			if dims := term.Dims(got); dims != want || mask.Has(dims, from) {
-				t.Fatalf("Dims(%v, %d, 1) = %v", x.t, from, got)
+				t.Fatalf("Dims(%v, %d, 1) = %v", x.T, from, got)
 			}
 			for n := range 7 {
-				if term.Uses(got, n) != term.Uses(x.t, n) {
-					t.Fatalf("Dims(%v, %d, 1) = %v", x.t, from, got)
+				if term.Uses(got, n) != term.Uses(x.T, n) {
+					t.Fatalf("Dims(%v, %d, 1) = %v", x.T, from, got)
 				}
 			}
 		}
@@ -115,20 +98,20 @@ func TestWhatIsUsed(t *testing.T) {
 // A lift of variables and one of dimensions hang on no order.
 func TestNoOrder(t *testing.T) {
 	told := 0
-	for _, x := range grownTerms(3000) {
+	for _, x := range sample.GrownTerms(3000) {
 		for k := range 6 {
 			varsFrom, varsBy, dimsFrom, dimsBy := k%3, k*k, k%2, k
-			a, ea := Vars(x.t, varsFrom, varsBy)
+			a, ea := Vars(x.T, varsFrom, varsBy)
 			if ea == api.OK {
 				a, ea = Dims(a, dimsFrom, dimsBy)
 			}
-			b, eb := Dims(x.t, dimsFrom, dimsBy)
+			b, eb := Dims(x.T, dimsFrom, dimsBy)
 			if eb == api.OK {
 				b, eb = Vars(b, varsFrom, varsBy)
 			}
 			answer(t, "in the other order", b, eb, a, ea)
 			if varsFrom == 0 && dimsFrom == 0 {
-				c, ec := Both(x.t, varsBy, dimsBy)
+				c, ec := Both(x.T, varsBy, dimsBy)
 				answer(t, "Both", c, ec, a, ea)
 			}
 			if ea == api.OK {
@@ -144,23 +127,23 @@ func TestNoOrder(t *testing.T) {
 // What may be in so many may be lifted in so many more.
 func TestMayBeInMore(t *testing.T) {
 	told := 0
-	for _, x := range grownTerms(1500) {
+	for _, x := range sample.GrownTerms(1500) {
 		for by := range 8 {
 			for from := range 4 {
-				got, e := Vars(x.t, from, by*1000)
-				if e != api.OK || from <= x.vars && term.Right(got, x.vars+by*1000, x.dims) != api.OK {
-					t.Fatalf("Vars(%v, %d, %d) = %v, %d", x.t, from, by, got, e)
+				got, e := Vars(x.T, from, by*1000)
+				if e != api.OK || from <= x.Vars && term.Right(got, x.Vars+by*1000, x.Dims) != api.OK {
+					t.Fatalf("Vars(%v, %d, %d) = %v, %d", x.T, from, by, got, e)
 				}
-				if term.Right(x.t, x.vars, x.dims+by) != api.OK { // its binders leave no room for so many
+				if term.Right(x.T, x.Vars, x.Dims+by) != api.OK { // its binders leave no room for so many
 					continue
 				}
-				got, e = Dims(x.t, from, by)
-				if e != api.OK || term.Right(got, x.vars, x.dims+by) != api.OK {
-					t.Fatalf("Dims(%v, %d, %d) = %v, %d", x.t, from, by, got, e)
+				got, e = Dims(x.T, from, by)
+				if e != api.OK || term.Right(got, x.Vars, x.Dims+by) != api.OK {
+					t.Fatalf("Dims(%v, %d, %d) = %v, %d", x.T, from, by, got, e)
 				}
-				got, e = Both(x.t, by, by)
-				if e != api.OK || term.Right(got, x.vars+by, x.dims+by) != api.OK {
-					t.Fatalf("Both(%v, %d, %d) = %v, %d", x.t, by, by, got, e)
+				got, e = Both(x.T, by, by)
+				if e != api.OK || term.Right(got, x.Vars+by, x.Dims+by) != api.OK {
+					t.Fatalf("Both(%v, %d, %d) = %v, %d", x.T, by, by, got, e)
 				}
 				told++
 			}
@@ -173,22 +156,22 @@ func TestMayBeInMore(t *testing.T) {
 
 // The rules that hold everywhere: what is handed in stays as it is, its spare room too, and what lies there is not read; what is handed out is of its own memory.
 func TestMemory(t *testing.T) {
-	for _, s := range grownTerms(800) {
+	for _, s := range sample.GrownTerms(800) {
 		for name, call := range calls() {
 			for _, at := range [][2]int{{0, 0}, {0, 1}, {1, 2}, {3, 0}, {0, 22}} {
-				x := sample.Roomy(s.t)
+				x := sample.Roomy(s.T)
 				before := sample.Whole(x)
-				want, wantE := call(s.t, at[0], at[1])
+				want, wantE := call(s.T, at[0], at[1])
 				got, e := call(x, at[0], at[1])
 				answer(t, name, got, e, want, wantE)
 				if !reflect.DeepEqual(sample.Plain(sample.Whole(got)), sample.Plain(sample.Whole(want))) {
-					t.Fatalf("%s(%v): what lies in the spare room was handed out", name, s.t)
+					t.Fatalf("%s(%v): what lies in the spare room was handed out", name, s.T)
 				}
 				if twice := sample.Spoil([]api.Term{got}); twice > 0 {
-					t.Fatalf("%s(%v): lists of one answer share memory", name, s.t)
+					t.Fatalf("%s(%v): lists of one answer share memory", name, s.T)
 				}
 				if !reflect.DeepEqual(before, sample.Whole(x)) {
-					t.Fatalf("%s(%v): what was handed in was changed, or handed out", name, s.t)
+					t.Fatalf("%s(%v): what was handed in was changed, or handed out", name, s.T)
 				}
 				got, e = call(x, at[0], at[1])
 				answer(t, name+" again", got, e, want, wantE)
@@ -213,10 +196,10 @@ func TestWhatIsShared(t *testing.T) {
 
 // A list without an element may be nil or empty.
 func TestEmptyLists(t *testing.T) {
-	for _, s := range append(grownTerms(1000), scoped{t: univ}, scoped{t: node(api.Loop)}, scoped{t: grown(node(api.MkGlue, univ), nil, univ)}) {
+	for _, s := range append(sample.GrownTerms(1000), sample.Scoped{T: univ}, sample.Scoped{T: node(api.Loop)}, sample.Scoped{T: grown(node(api.MkGlue, univ), nil, univ)}) {
 		for name, call := range calls() {
-			want, wantE := call(s.t, 1, 2)
-			got, e := call(sample.Plain(s.t), 1, 2)
+			want, wantE := call(s.T, 1, 2)
+			got, e := call(sample.Plain(s.T), 1, 2)
 			answer(t, name, got, e, want, wantE)
 		}
 	}

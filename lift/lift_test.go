@@ -18,6 +18,7 @@ var (
 	node, with, grown     = sample.Node, sample.With, sample.Grown
 	variable, loop, times = sample.Var, sample.Loop, sample.Times
 	lam, plam, fst        = sample.Lam, sample.PLam, sample.Fst
+	inEachPlace, parts    = sample.InEachPlace, sample.Parts
 )
 
 var univ = api.Term{Kind: api.Univ}
@@ -62,49 +63,6 @@ func TestVars(t *testing.T) {
 	} {
 		got, e := Vars(x.t, x.from, x.by)
 		answer(t, "Vars", got, e, x.want, api.OK)
-	}
-}
-
-// inEachPlace tells a term of each kind, with so many branches where it has a system; what stands in a place is told by the place's letter.
-func inEachPlace(branches int, part func(letter byte) api.Term, formula, face row) []api.Term {
-	var out []api.Term
-	forms := sample.Forms()
-	for kind := api.Var; kind <= api.The; kind++ {
-		f := forms[kind]
-		x := api.Term{Kind: kind}
-		if kind == api.Const {
-			x.Name = "c"
-		}
-		for k := range len(f.Kids) {
-			x.Kids = append(x.Kids, part(f.Kids[k]))
-		}
-		if f.Formula {
-			x.R = formula
-		}
-		if f.Face {
-			x.R = face
-		}
-		for range branches {
-			var kids []api.Term
-			for k := range len(f.Branch) {
-				kids = append(kids, part(f.Branch[k]))
-			}
-			if f.Branch != "" {
-				x = grown(x, face, kids...)
-			}
-		}
-		out = append(out, x)
-	}
-	return out
-}
-
-// parts tells what stands in a place by its letter: one thing where that binds, another one elsewhere.
-func parts(binder byte, plain, bound api.Term) func(byte) api.Term {
-	return func(letter byte) api.Term {
-		if letter == binder {
-			return bound
-		}
-		return plain
 	}
 }
 

@@ -6,7 +6,6 @@ import (
 
 	"hypercube/api"
 	"hypercube/sample"
-	"hypercube/term"
 )
 
 // model lifts by the tests' own rule: by the kinds' forms as package sample tells them, dimension by dimension, with numbers that have room for each sum.
@@ -119,45 +118,6 @@ func bothModel(t api.Term, vars, dims int) (api.Term, api.Errno) {
 	return dimsModel(lifted, 0, dims)
 }
 
-// eachNode hands out all nodes of a term, to be changed.
-func eachNode(t *api.Term, do func(*api.Term)) {
-	do(t)
-	for k := range t.Kids {
-		eachNode(&t.Kids[k], do)
-	}
-	for _, b := range t.Sys {
-		for k := range b.Kids {
-			eachNode(&b.Kids[k], do)
-		}
-	}
-}
-
-// far tells a term, some variables of which are near the last one that there may be, or near the end of all numbers (as far as MayBeFormed tells).
-func far(g *sample.Grower, t api.Term) api.Term {
-	numbers := []int{billion - 1000001, billion - 1000000, billion - 999999, billion - 2, billion - 1, billion, billion + 1, math.MaxInt - 2*api.MaxSize}
-	t = term.Copy(t)
-	most := 1 + g.Below(len(numbers))
-	eachNode(&t, func(n *api.Term) {
-		if n.Kind == api.Var && g.Below(3) == 0 {
-			n.N = numbers[g.Below(most)]
-		}
-	})
-	return t
-}
-
-// spoilt tells a term, one node of which may not be any more, mostly.
-func spoilt(g *sample.Grower, t api.Term) api.Term {
-	t = term.Copy(t)
-	at := g.Below(term.Size(t))
-	eachNode(&t, func(n *api.Term) {
-		if at == 0 {
-			*n = []api.Term{{}, {Kind: api.Var, N: -1}, {Kind: api.Const}, {Kind: api.Loop, R: row{pos(1 << 24)}}, lam(lam(univ)), node(api.Lam), grown(univ, nil, univ)}[g.Below(7)]
-		}
-		at--
-	})
-	return t
-}
-
 // P11.1, P11.2 and P11.3, by another road: terms of all kinds, and numbers at all edges.
 func TestByTheModel(t *testing.T) {
 	numbers := []int{0, 0, 0, 1, 1, 2, 3, 4, 5, 8, 20, 22, 23, 24, 25, 999999, 1000000, 1000001, billion - 1, billion, billion + 1, math.MaxInt - 1, math.MaxInt, -1, math.MinInt}
@@ -167,10 +127,10 @@ func TestByTheModel(t *testing.T) {
 		x := g.Term(g.Below(6), []int{0, 1, 4, 20, 23, 24}[g.Below(6)], g.Below(50))
 		switch g.Below(4) {
 		case 0:
-			x = far(g, x)
+			x = g.Far(x)
 		case 1:
 			if g.Below(4) == 0 {
-				x = spoilt(g, x)
+				x = g.Spoilt(x)
 			}
 		}
 		for range 4 {

@@ -93,48 +93,19 @@ func TestBadNumbers(t *testing.T) {
 	}
 }
 
-// places tells a term of a kind, with two branches if it has a system; in its places, in order, stands what is told by their numbers: a row (its formula or face, faces of branches), or a term.
-func places(kind int, rowAt func(int) row, termAt func(int) api.Term) (x api.Term, rows []bool) {
-	f := sample.Forms()[kind]
-	x = api.Term{Kind: kind}
-	row := func() []api.Clause {
-		rows = append(rows, true)
-		return rowAt(len(rows) - 1)
-	}
-	kids := func(n int) []api.Term {
-		var out []api.Term
-		for range n {
-			rows = append(rows, false)
-			out = append(out, termAt(len(rows)-1))
-		}
-		return out
-	}
-	if f.Formula || f.Face {
-		x.R = row()
-	}
-	x.Kids = kids(len(f.Kids))
-	for range 2 {
-		if f.Branch != "" {
-			face := row()
-			x = grown(x, face, kids(len(f.Branch))...)
-		}
-	}
-	return x, rows
-}
-
 // P11.2: of two places that are refused, for a dimension and for a variable, the first is told.
 func TestWhichIsToldFirst(t *testing.T) {
 	ways := []func(api.Term) api.Term{func(x api.Term) api.Term { return x }, fst, lam, plam, func(x api.Term) api.Term { return grown(node(api.HComp, univ, univ), nil, x) }}
 	tried := 0
 	for kind := api.Var; kind <= api.The; kind++ {
-		_, rows := places(kind, func(int) row { return nil }, func(int) api.Term { return univ })
+		_, rows := sample.Places(kind, func(int) row { return nil }, func(int) api.Term { return univ })
 		for dim := range rows {
 			for v, isRow := range rows {
 				if isRow || v == dim {
 					continue
 				}
 				for _, in := range ways {
-					x, _ := places(kind, func(k int) row {
+					x, _ := sample.Places(kind, func(k int) row {
 						if k == dim {
 							return row{neg(sample.Last)}
 						}

@@ -1,6 +1,7 @@
 package sample
 
 import (
+	"math"
 	"slices"
 
 	"hypercube/api"
@@ -94,4 +95,49 @@ func (g *Grower) set(dims int) uint32 {
 		}
 	}
 	return s
+}
+
+// Scoped is a term that may be in so many variables and dimensions.
+type Scoped struct {
+	T          api.Term
+	Vars, Dims int
+}
+
+// GrownTerms tells such, of all kinds, one for each seed.
+func GrownTerms(seeds uint32) []Scoped {
+	var out []Scoped
+	for seed := range seeds {
+		g := Grow(seed)
+		vars, dims := g.Below(6), g.Below(14)
+		out = append(out, Scoped{g.Term(vars, dims, g.Below(50)), vars, dims})
+	}
+	return out
+}
+
+// Far tells a term, some variables of which are near the last one that a lift may tell, or near the end of all numbers (as far as MayBeFormed tells).
+func (g *Grower) Far(t api.Term) api.Term {
+	const last = 1000000000
+	numbers := []int{last - 1000001, last - 1000000, last - 999999, last - 2, last - 1, last, last + 1, math.MaxInt - 2*api.MaxSize}
+	t = Plain(t)
+	most := 1 + g.Below(len(numbers))
+	EachNode(&t, func(n *api.Term) {
+		if n.Kind == api.Var && g.Below(3) == 0 {
+			n.N = numbers[g.Below(most)]
+		}
+	})
+	return t
+}
+
+// Spoilt tells a term, one node of which may not be any more, mostly.
+func (g *Grower) Spoilt(t api.Term) api.Term {
+	univ := Node(api.Univ)
+	t = Plain(t)
+	at := g.Below(Nodes(t))
+	EachNode(&t, func(n *api.Term) {
+		if at == 0 {
+			*n = []api.Term{{}, Var(-1), {Kind: api.Const}, Loop(api.MaxDims), Lam(Lam(univ)), Node(api.Lam), Grown(univ, nil, univ)}[g.Below(7)]
+		}
+		at--
+	})
+	return t
 }

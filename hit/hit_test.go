@@ -15,8 +15,16 @@ type row = []api.Clause
 // system is some branches.
 type system = []api.Branch
 
+// thing is a term of the outside; way is a line.
+type (
+	thing = sample.Thing
+	way   = sample.Way
+)
+
 // Short names for what the tests write most.
 var (
+	some, someWay      = sample.Some, sample.SomeWay
+	shift              = sample.Shift
 	pos, neg, both     = sample.Pos, sample.Neg, sample.Both
 	of, with, grown    = sample.Node, sample.With, sample.Grown
 	v, loop, times     = sample.Var, sample.Loop, sample.Times
@@ -76,38 +84,6 @@ func short(t api.Term) string {
 func TestExamples(t *testing.T) {
 	becomes(t, "Elim", of(api.CircleEl, univ, circle, v(0), comp(circle, base)), comp(univ, along(never, univ, of(api.CircleEl, univ, circle, v(0), base))), api.OK)
 	becomes(t, "Carry", along(never, susp(circle), merid(base, row{pos(1)})), merid(along(never, circle, base), row{pos(1)}), api.OK)
-}
-
-// shift tells a row with all dimensions from one on so many more.
-func shift(r row, from, by int) row {
-	low := uint32(1)<<from - 1
-	up := func(s uint32) uint32 { return s&low | s&^low<<by }
-	var out row
-	for _, c := range r {
-		out = append(out, both(up(c.Pos), up(c.Neg)))
-	}
-	return out
-}
-
-// thing is a term of the outside: it tells itself behind so many binders more.
-type thing func(vars, dims int) api.Term
-
-// way is a line: it tells itself, with a formula in its dimension's place, behind so many binders more than its own.
-type way func(r row, vars, dims int) api.Term
-
-// some tells things that are none the same, of variables and dimensions, with binders and branches.
-func some(n int) thing {
-	return func(vars, dims int) api.Term {
-		here := pair(v(n+vars), loop(n%4+dims))
-		inner := pair(pair(v(0), loop(0)), pair(v(n+1+vars), loop(n%4+1+dims)))
-		return grown(of(api.MkGlue, here), row{neg(1 << (n%3 + dims)), pos(2 << (n%3 + dims))}, lam(plam(inner)))
-	}
-}
-
-func someWay(n int) way {
-	return func(r row, vars, dims int) api.Term {
-		return pair(loops(r...), pair(some(n)(vars, dims+1), plam(loops(shift(r, 0, 1)...))))
-	}
 }
 
 // family is a type that hangs on a thing, behind so many binders more.

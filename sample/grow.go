@@ -24,7 +24,12 @@ func (g *Grower) Below(n int) int {
 
 // Term tells one that may be in so many variables and dimensions, of about so many nodes.
 func (g *Grower) Term(vars, dims, nodes int) api.Term {
-	t := api.Term{Kind: g.kind(vars, dims, nodes)}
+	return g.ofKind(g.kind(vars, dims, nodes), vars, dims, nodes)
+}
+
+// ofKind tells such a one, the own node of which is of a kind.
+func (g *Grower) ofKind(kind, vars, dims, nodes int) api.Term {
+	t := api.Term{Kind: kind}
 	switch t.Kind {
 	case api.Var:
 		t.N = g.Below(vars)

@@ -73,7 +73,7 @@ func TestRefusedByALayer(t *testing.T) {
 		e api.Errno
 	}{
 		// Chapter 16.
-		{app(lam(twice), half), api.OK}, {app(lam(twice), sample.Balanced(10000)), api.ErrSize}, {app(lam(times(101, v(0), fst)), tall(100)), api.ErrDeep}, {app(lam(lam(v(1))), v(billion + 1)), api.ErrTerm}, {with(of(api.PApp, path, base, base), row{pos(1), pos(1 << 20)}), api.ErrBig}, {app(lam(plam(v(0))), loop(23)), api.ErrDims},
+		{app(lam(twice), half), api.OK}, {app(lam(twice), sample.Balanced(10000)), api.ErrSize}, {app(lam(times(101, v(0), fst)), tall(100)), api.ErrDeep}, {app(lam(lam(v(1))), v(billion+1)), api.ErrTerm}, {with(of(api.PApp, path, base, base), row{pos(1), pos(1 << 20)}), api.ErrBig}, {app(lam(plam(v(0))), loop(23)), api.ErrDims},
 		// Chapter 17.
 		{elim(tall(198)), api.ErrDeep}, {elim(sample.Balanced(9980)), api.OK}, {elim(sample.Balanced(10000)), api.ErrSize}, {elims(v(0)), api.OK}, {elims(v(billion + 1)), api.ErrTerm}, {elims(loop(23)), api.ErrDims}, {elims(sample.Balanced(19989)), api.ErrSize},
 		// Chapter 19.
